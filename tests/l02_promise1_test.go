@@ -1,0 +1,276 @@
+package tests
+
+import (
+	"math"
+	"slices"
+	"testing"
+
+	"loop.example/g01328/impl"
+)
+
+// outcome has all numbers that functions return: those of lists, and single ones.
+type outcome struct {
+	points  [][]complex64
+	numbers [][]float32
+	single  []float32
+}
+
+func (o *outcome) addPoints(points []complex64, ok bool) {
+	o.points = append(o.points, points)
+	o.single = append(o.single, truth(ok), float32(len(points)))
+}
+
+func (o *outcome) addNumbers(numbers []float32, ok bool) {
+	o.numbers = append(o.numbers, numbers)
+	o.single = append(o.single, truth(ok), float32(len(numbers)))
+}
+
+func (o *outcome) addCurve(c impl.Curve, ok bool) {
+	o.addPoints(c.Points, ok)
+	o.addNumbers(c.Weights, ok)
+}
+
+func (o *outcome) addSpline(s impl.Spline, ok bool) {
+	o.single = append(o.single, float32(s.Degree))
+	o.addPoints(s.Points, ok)
+	o.addNumbers(s.Knots, ok)
+}
+
+func (o *outcome) addPoint(point complex64, ok bool) {
+	o.single = append(o.single, real(point), imag(point), truth(ok))
+}
+
+// arguments are what all functions of chapter 2 take.
+type arguments struct {
+	curve, other   impl.Curve
+	spline, second impl.Spline
+	x, y           float32
+	point          complex64
+	n              int64
+}
+
+func ofCurves(a arguments) outcome {
+	var o outcome
+	o.single = append(o.single, truth(impl.ValidCurve(a.curve)), truth(impl.SameCurve(a.curve, a.other)))
+	o.addCurve(impl.PlainCurve(a.curve.Points))
+	o.addCurve(impl.QuarterCurve(a.point, a.x))
+	o.addPoint(impl.CurveAt(a.curve, a.x))
+	o.addPoint(impl.SlopeAt(a.curve, a.x))
+	former, latter, ok := impl.CutCurve(a.curve, a.x)
+	o.addCurve(former, ok)
+	o.addCurve(latter, ok)
+	o.addCurve(impl.PartOfCurve(a.curve, a.x, a.y))
+	o.addCurve(impl.PartOfCurve(a.curve, 0, a.y))
+	o.addCurve(impl.BackCurve(a.curve))
+	o.addCurve(impl.MoveCurve(a.curve, a.point))
+	o.addCurve(impl.TurnCurve(a.curve, a.x, a.y))
+	o.addCurve(impl.RaiseCurve(a.curve))
+	o.addCurve(impl.SlopeCurve(a.curve))
+	o.addNumbers(impl.SharesAt(a.n, a.x))
+	o.addCurve(impl.BlendCurves(a.curve, a.other, a.x))
+	o.addPoints(impl.PointsOn(a.curve, a.n))
+	return o
+}
+
+func ofSplines(a arguments) outcome {
+	var o outcome
+	o.single = append(o.single, truth(impl.ValidSpline(a.spline)), truth(impl.SameSpline(a.spline, a.second)))
+	o.addSpline(impl.EvenSpline(a.spline.Points, a.n))
+	span, ok := impl.SpanAt(a.spline, a.x)
+	o.single = append(o.single, float32(span), truth(ok))
+	o.addPoint(impl.SplineAt(a.spline, a.x))
+	o.addNumbers(impl.BasisAt(a.spline, a.x))
+	o.addPoint(impl.SplineSlope(a.spline, a.x))
+	o.addSpline(impl.PutKnot(a.spline, a.x))
+	pieces, ok := impl.PiecesOf(a.spline)
+	o.single = append(o.single, float32(len(pieces)), truth(ok))
+	for _, piece := range pieces {
+		o.addCurve(piece, ok)
+	}
+	o.addSpline(impl.MoveCorner(a.spline, a.n, a.point))
+	return o
+}
+
+func outcomesOf(a arguments) []outcome { return []outcome{ofCurves(a), ofSplines(a)} }
+
+func sameOutcomes(a, b []outcome) bool {
+	return slices.EqualFunc(a, b, func(a, b outcome) bool {
+		return slices.EqualFunc(a.points, b.points, samePoints) && slices.EqualFunc(a.numbers, b.numbers, sameNumbers) && sameNumbers(a.single, b.single)
+	})
+}
+
+func (a arguments) copy() arguments {
+	a.curve, a.other = copyCurve(a.curve), copyCurve(a.other)
+	a.spline, a.second = copySpline(a.spline), copySpline(a.second)
+	return a
+}
+
+// roomy returns equal arguments, of which each list has room behind it, and all that is in memory.
+func (a arguments) roomy() (arguments, [][]complex64, [][]float32) {
+	var points [][]complex64
+	var numbers [][]float32
+	giveRoom := func(list []complex64) []complex64 {
+		more := append(slices.Clone(list), 71, 72, 73, 74, 75, 76, 77, 78, 79)
+		points = append(points, more)
+		return more[:len(list)]
+	}
+	giveNumbers := func(list []float32) []float32 {
+		more := append(slices.Clone(list), 81, 82, 83, 84, 85, 86, 87, 88, 89)
+		numbers = append(numbers, more)
+		return more[:len(list)]
+	}
+	for _, c := range []*impl.Curve{&a.curve, &a.other} {
+		c.Points, c.Weights = giveRoom(c.Points), giveNumbers(c.Weights)
+	}
+	for _, s := range []*impl.Spline{&a.spline, &a.second} {
+		s.Points, s.Knots = giveRoom(s.Points), giveNumbers(s.Knots)
+	}
+	return a, points, numbers
+}
+
+// wantOwnMemory fills all lists of an outcome, and the room behind them, with numbers of their own.
+func wantOwnMemory(t *testing.T, o outcome) {
+	t.Helper()
+	for i, list := range o.points {
+		for k := range list[:cap(list)] {
+			list[:cap(list)][k] = complex(float32(i), 0.5)
+		}
+	}
+	for i, list := range o.numbers {
+		for k := range list[:cap(list)] {
+			list[:cap(list)][k] = float32(i) + 0.25
+		}
+	}
+	for i, list := range o.points {
+		for _, point := range list[:cap(list)] {
+			wantComplex(t, point, complex(float32(i), 0.5), "point of list", i)
+		}
+	}
+	for i, list := range o.numbers {
+		for _, x := range list[:cap(list)] {
+			wantNumber(t, x, float32(i)+0.25, "number of list", i)
+		}
+	}
+}
+
+func (s *source) arguments() arguments {
+	a := arguments{curve: s.curve(1, 7), spline: s.spline(16), x: s.time(), y: s.time(), point: s.point(), n: int64(s.below(8))}
+	for len(a.other.Points) != len(a.curve.Points) {
+		a.other = s.curve(1, 7)
+	}
+	a.second = copySpline(a.spline)
+	if s.below(2) == 0 {
+		a.second.Points[0] = 9
+	}
+	if s.below(4) > 0 {
+		a.x, a.y = min(a.x, a.y), max(a.x, a.y)
+	}
+	if s.below(2) == 0 {
+		a.x = s.timeOf(a.spline)
+	}
+	return a
+}
+
+// Promise 1: nothing is modified, results are new, and equal arguments have equal results.
+func TestCurvesArePure(t *testing.T) {
+	s := newSource()
+	for range 400 {
+		first := s.arguments()
+		second, points, numbers := first.roomy()
+		oldPoints, oldNumbers := make([][]complex64, len(points)), make([][]float32, len(numbers))
+		for i := range points {
+			oldPoints[i], oldNumbers[i] = slices.Clone(points[i]), slices.Clone(numbers[i])
+		}
+		want := outcomesOf(first.copy())
+		got := outcomesOf(second)
+		wantTrue(t, sameOutcomes(got, want), "equal arguments", first)
+		for _, o := range got {
+			wantOwnMemory(t, o)
+		}
+		wantTrue(t, slices.EqualFunc(points, oldPoints, samePoints), "points not modified", first)
+		wantTrue(t, slices.EqualFunc(numbers, oldNumbers, sameNumbers), "numbers not modified", first)
+		wantTrue(t, sameOutcomes(outcomesOf(second), want), "once more", first)
+	}
+}
+
+// Promise 1: functions return for any numbers, and not-a-numbers are one value.
+func TestCurvesAreTotal(t *testing.T) {
+	r := fixedRandom()
+	special := append(specialNumbers(), fewNumbers()...)
+	number := func() float32 {
+		switch r.Intn(4) {
+		case 0:
+			return special[r.Intn(len(special))]
+		case 1:
+			return r.Float32()
+		}
+		return randomNumber(r)
+	}
+	numbers := func(count int) []float32 {
+		list := make([]float32, count)
+		for i := range list {
+			list[i] = number()
+		}
+		return list
+	}
+	points := func(count int) []complex64 {
+		list := make([]complex64, count)
+		for i := range list {
+			list[i] = complex(number(), number())
+		}
+		return list
+	}
+	counts := []int64{0, 1, 2, 3, 5, 7, 8, 24, 25, -1, math.MaxInt64, math.MinInt64, 1 << 31, 1 << 32}
+	for range 4000 {
+		a := arguments{x: number(), y: number(), point: complex(number(), number()), n: counts[r.Intn(len(counts))]}
+		a.curve = impl.Curve{Points: points(r.Intn(10)), Weights: numbers(r.Intn(10))}
+		a.other = impl.Curve{Points: points(len(a.curve.Points)), Weights: repeated[float32](1, len(a.curve.Points))}
+		if r.Intn(2) == 0 {
+			a.curve, a.other = a.other, a.curve
+		}
+		a.spline = impl.Spline{Degree: counts[r.Intn(len(counts))], Points: points(r.Intn(27)), Knots: numbers(r.Intn(33))}
+		if degree := int(a.spline.Degree); degree >= 1 && degree <= 8 {
+			a.spline.Knots = numbers(len(a.spline.Points) + degree + 1)
+			slices.Sort(a.spline.Knots)
+			for i := range degree + 1 {
+				a.spline.Knots[i] = -mostNumber
+				a.spline.Knots[len(a.spline.Knots)-1-i] = mostNumber
+			}
+		}
+		a.second = a.spline
+		want := outcomesOf(a)
+		wantTrue(t, sameOutcomes(outcomesOf(a.otherwise()), want), "equal arguments", a)
+	}
+}
+
+// otherwise has other not-a-numbers in place of those that there are.
+func (a arguments) otherwise() arguments {
+	a = a.copy()
+	for _, list := range [][]complex64{a.curve.Points, a.other.Points, a.spline.Points, a.second.Points} {
+		for i := range list {
+			list[i] = otherComplex(list[i])
+		}
+	}
+	for _, list := range [][]float32{a.curve.Weights, a.other.Weights, a.spline.Knots, a.second.Knots} {
+		for i := range list {
+			list[i] = otherwise(list[i])
+		}
+	}
+	a.x, a.y, a.point = otherwise(a.x), otherwise(a.y), otherComplex(a.point)
+	return a
+}
+
+// Promise 1: nil and an empty list are the same value.
+func TestNoListsOfCurves(t *testing.T) {
+	empty := arguments{n: 1}
+	empty.curve = impl.Curve{Points: []complex64{}, Weights: []float32{}}
+	empty.spline = impl.Spline{Degree: 1, Points: []complex64{}, Knots: []float32{}}
+	missing := arguments{n: 1}
+	missing.spline.Degree = 1
+	wantTrue(t, sameOutcomes(outcomesOf(empty), outcomesOf(missing)), "nil and empty lists")
+	for _, o := range outcomesOf(missing) {
+		for _, list := range o.points {
+			wantTrue(t, len(list) == 0, "list of a function that fails", list)
+		}
+	}
+}
