@@ -2,6 +2,7 @@ package tests
 
 import (
 	"math"
+	"math/rand"
 	"slices"
 	"testing"
 
@@ -171,73 +172,88 @@ func (s *source) arguments() arguments {
 	return a
 }
 
+// wantPure holds results of equal arguments against each other, and looks for what has been modified.
+func wantPure(t *testing.T, first arguments, outcomesOf func(arguments) []outcome) {
+	t.Helper()
+	second, points, numbers := first.roomy()
+	oldPoints, oldNumbers := make([][]complex64, len(points)), make([][]float32, len(numbers))
+	for i := range points {
+		oldPoints[i], oldNumbers[i] = slices.Clone(points[i]), slices.Clone(numbers[i])
+	}
+	want := outcomesOf(first.copy())
+	got := outcomesOf(second)
+	wantTrue(t, sameOutcomes(got, want), "equal arguments", first)
+	for _, o := range got {
+		wantOwnMemory(t, o)
+	}
+	wantTrue(t, slices.EqualFunc(points, oldPoints, samePoints), "points not modified", first)
+	wantTrue(t, slices.EqualFunc(numbers, oldNumbers, sameNumbers), "numbers not modified", first)
+	wantTrue(t, sameOutcomes(outcomesOf(second), want), "once more", first)
+}
+
 // Promise 1: nothing is modified, results are new, and equal arguments have equal results.
 func TestCurvesArePure(t *testing.T) {
 	s := newSource()
 	for range 400 {
-		first := s.arguments()
-		second, points, numbers := first.roomy()
-		oldPoints, oldNumbers := make([][]complex64, len(points)), make([][]float32, len(numbers))
-		for i := range points {
-			oldPoints[i], oldNumbers[i] = slices.Clone(points[i]), slices.Clone(numbers[i])
-		}
-		want := outcomesOf(first.copy())
-		got := outcomesOf(second)
-		wantTrue(t, sameOutcomes(got, want), "equal arguments", first)
-		for _, o := range got {
-			wantOwnMemory(t, o)
-		}
-		wantTrue(t, slices.EqualFunc(points, oldPoints, samePoints), "points not modified", first)
-		wantTrue(t, slices.EqualFunc(numbers, oldNumbers, sameNumbers), "numbers not modified", first)
-		wantTrue(t, sameOutcomes(outcomesOf(second), want), "once more", first)
+		wantPure(t, s.arguments(), outcomesOf)
 	}
+}
+
+// wildNumber is any number, an edge of the format now and then.
+func wildNumber(r *rand.Rand) float32 {
+	special := append(specialNumbers(), fewNumbers()...)
+	switch r.Intn(4) {
+	case 0:
+		return special[r.Intn(len(special))]
+	case 1:
+		return r.Float32()
+	}
+	return randomNumber(r)
+}
+
+func wildList(r *rand.Rand, count int) []float32 {
+	list := make([]float32, count)
+	for i := range list {
+		list[i] = wildNumber(r)
+	}
+	return list
+}
+
+func wildPointList(r *rand.Rand, count int) []complex64 {
+	list := make([]complex64, count)
+	for i := range list {
+		list[i] = complex(wildNumber(r), wildNumber(r))
+	}
+	return list
+}
+
+// wildArguments are seldom valid.
+func wildArguments(r *rand.Rand) arguments {
+	counts := []int64{0, 1, 2, 3, 5, 7, 8, 24, 25, -1, math.MaxInt64, math.MinInt64, 1 << 31, 1 << 32}
+	a := arguments{x: wildNumber(r), y: wildNumber(r), point: wildPointList(r, 1)[0], n: counts[r.Intn(len(counts))]}
+	a.curve = impl.Curve{Points: wildPointList(r, r.Intn(10)), Weights: wildList(r, r.Intn(10))}
+	a.other = impl.Curve{Points: wildPointList(r, len(a.curve.Points)), Weights: repeated[float32](1, len(a.curve.Points))}
+	if r.Intn(2) == 0 {
+		a.curve, a.other = a.other, a.curve
+	}
+	a.spline = impl.Spline{Degree: counts[r.Intn(len(counts))], Points: wildPointList(r, r.Intn(27)), Knots: wildList(r, r.Intn(33))}
+	if degree := int(a.spline.Degree); degree >= 1 && degree <= 8 {
+		a.spline.Knots = wildList(r, len(a.spline.Points)+degree+1)
+		slices.Sort(a.spline.Knots)
+		for i := range degree + 1 {
+			a.spline.Knots[i] = -mostNumber
+			a.spline.Knots[len(a.spline.Knots)-1-i] = mostNumber
+		}
+	}
+	a.second = a.spline
+	return a
 }
 
 // Promise 1: functions return for any numbers, and not-a-numbers are one value.
 func TestCurvesAreTotal(t *testing.T) {
 	r := fixedRandom()
-	special := append(specialNumbers(), fewNumbers()...)
-	number := func() float32 {
-		switch r.Intn(4) {
-		case 0:
-			return special[r.Intn(len(special))]
-		case 1:
-			return r.Float32()
-		}
-		return randomNumber(r)
-	}
-	numbers := func(count int) []float32 {
-		list := make([]float32, count)
-		for i := range list {
-			list[i] = number()
-		}
-		return list
-	}
-	points := func(count int) []complex64 {
-		list := make([]complex64, count)
-		for i := range list {
-			list[i] = complex(number(), number())
-		}
-		return list
-	}
-	counts := []int64{0, 1, 2, 3, 5, 7, 8, 24, 25, -1, math.MaxInt64, math.MinInt64, 1 << 31, 1 << 32}
 	for range 4000 {
-		a := arguments{x: number(), y: number(), point: complex(number(), number()), n: counts[r.Intn(len(counts))]}
-		a.curve = impl.Curve{Points: points(r.Intn(10)), Weights: numbers(r.Intn(10))}
-		a.other = impl.Curve{Points: points(len(a.curve.Points)), Weights: repeated[float32](1, len(a.curve.Points))}
-		if r.Intn(2) == 0 {
-			a.curve, a.other = a.other, a.curve
-		}
-		a.spline = impl.Spline{Degree: counts[r.Intn(len(counts))], Points: points(r.Intn(27)), Knots: numbers(r.Intn(33))}
-		if degree := int(a.spline.Degree); degree >= 1 && degree <= 8 {
-			a.spline.Knots = numbers(len(a.spline.Points) + degree + 1)
-			slices.Sort(a.spline.Knots)
-			for i := range degree + 1 {
-				a.spline.Knots[i] = -mostNumber
-				a.spline.Knots[len(a.spline.Knots)-1-i] = mostNumber
-			}
-		}
-		a.second = a.spline
+		a := wildArguments(r)
 		want := outcomesOf(a)
 		wantTrue(t, sameOutcomes(outcomesOf(a.otherwise()), want), "equal arguments", a)
 	}
