@@ -9,11 +9,18 @@ import (
 	"loop.example/g01328/impl"
 )
 
-// outcome has all numbers that functions return: those of lists, and single ones.
-type outcome struct {
+// lists has all lists that functions return, or that they take.
+type lists struct {
 	points  [][]complex64
 	numbers [][]float32
-	single  []float32
+	spots   [][]impl.Spot
+	indices [][]int64
+}
+
+// outcome has all that functions return: lists, and single numbers.
+type outcome struct {
+	lists
+	single []float32
 }
 
 func (o *outcome) addPoints(points []complex64, ok bool) {
@@ -94,9 +101,28 @@ func ofSplines(a arguments) outcome {
 
 func outcomesOf(a arguments) []outcome { return []outcome{ofCurves(a), ofSplines(a)} }
 
+func (l lists) same(other lists) bool {
+	return slices.EqualFunc(l.points, other.points, samePoints) &&
+		slices.EqualFunc(l.numbers, other.numbers, sameNumbers) &&
+		slices.EqualFunc(l.spots, other.spots, sameSpots) &&
+		slices.EqualFunc(l.indices, other.indices, slices.Equal)
+}
+
+func copyLists[T any](list [][]T) [][]T {
+	copies := make([][]T, len(list))
+	for i := range list {
+		copies[i] = slices.Clone(list[i])
+	}
+	return copies
+}
+
+func (l lists) copy() lists {
+	return lists{points: copyLists(l.points), numbers: copyLists(l.numbers), spots: copyLists(l.spots), indices: copyLists(l.indices)}
+}
+
 func sameOutcomes(a, b []outcome) bool {
 	return slices.EqualFunc(a, b, func(a, b outcome) bool {
-		return slices.EqualFunc(a.points, b.points, samePoints) && slices.EqualFunc(a.numbers, b.numbers, sameNumbers) && sameNumbers(a.single, b.single)
+		return a.lists.same(b.lists) && sameNumbers(a.single, b.single)
 	})
 }
 
@@ -106,52 +132,46 @@ func (a arguments) copy() arguments {
 	return a
 }
 
-// roomy returns equal arguments, of which each list has room behind it, and all that is in memory.
-func (a arguments) roomy() (arguments, [][]complex64, [][]float32) {
-	var points [][]complex64
-	var numbers [][]float32
-	giveRoom := func(list []complex64) []complex64 {
-		more := append(slices.Clone(list), 71, 72, 73, 74, 75, 76, 77, 78, 79)
-		points = append(points, more)
-		return more[:len(list)]
-	}
-	giveNumbers := func(list []float32) []float32 {
-		more := append(slices.Clone(list), 81, 82, 83, 84, 85, 86, 87, 88, 89)
-		numbers = append(numbers, more)
-		return more[:len(list)]
-	}
-	for _, c := range []*impl.Curve{&a.curve, &a.other} {
-		c.Points, c.Weights = giveRoom(c.Points), giveNumbers(c.Weights)
-	}
-	for _, s := range []*impl.Spline{&a.spline, &a.second} {
-		s.Points, s.Knots = giveRoom(s.Points), giveNumbers(s.Knots)
-	}
-	return a, points, numbers
+// withRoom returns an equal list with room behind it, and notes all that is in memory.
+func withRoom[T any](list []T, filler T, memory *[][]T) []T {
+	more := append(slices.Clone(list), repeated(filler, 9)...)
+	*memory = append(*memory, more)
+	return more[:len(list)]
 }
 
-// wantOwnMemory fills all lists of an outcome, and the room behind them, with numbers of their own.
-func wantOwnMemory(t *testing.T, o outcome) {
+// roomy returns equal arguments, of which each list has room behind it, and all that is in memory.
+func (a arguments) roomy() (arguments, lists) {
+	var memory lists
+	for _, c := range []*impl.Curve{&a.curve, &a.other} {
+		c.Points, c.Weights = withRoom(c.Points, 71, &memory.points), withRoom(c.Weights, 81, &memory.numbers)
+	}
+	for _, s := range []*impl.Spline{&a.spline, &a.second} {
+		s.Points, s.Knots = withRoom(s.Points, 72, &memory.points), withRoom(s.Knots, 82, &memory.numbers)
+	}
+	return a, memory
+}
+
+// wantOwn fills all lists, and the room behind them, with values of their own.
+func wantOwn[T comparable](t *testing.T, all [][]T, valueOf func(i int) T) {
 	t.Helper()
-	for i, list := range o.points {
+	for i, list := range all {
 		for k := range list[:cap(list)] {
-			list[:cap(list)][k] = complex(float32(i), 0.5)
+			list[:cap(list)][k] = valueOf(i)
 		}
 	}
-	for i, list := range o.numbers {
-		for k := range list[:cap(list)] {
-			list[:cap(list)][k] = float32(i) + 0.25
+	for i, list := range all {
+		for _, value := range list[:cap(list)] {
+			wantEqual(t, value, valueOf(i), "value of list", i)
 		}
 	}
-	for i, list := range o.points {
-		for _, point := range list[:cap(list)] {
-			wantComplex(t, point, complex(float32(i), 0.5), "point of list", i)
-		}
-	}
-	for i, list := range o.numbers {
-		for _, x := range list[:cap(list)] {
-			wantNumber(t, x, float32(i)+0.25, "number of list", i)
-		}
-	}
+}
+
+func (l lists) wantOwnMemory(t *testing.T) {
+	t.Helper()
+	wantOwn(t, l.points, func(i int) complex64 { return complex(float32(i), 0.5) })
+	wantOwn(t, l.numbers, func(i int) float32 { return float32(i) + 0.25 })
+	wantOwn(t, l.spots, func(i int) impl.Spot { return impl.Spot{X: float32(i), Z: 0.75} })
+	wantOwn(t, l.indices, func(i int) int64 { return int64(-1 - i) })
 }
 
 func (s *source) arguments() arguments {
@@ -172,22 +192,24 @@ func (s *source) arguments() arguments {
 	return a
 }
 
+// pureArguments are arguments of any chapter.
+type pureArguments[A any] interface {
+	copy() A
+	roomy() (A, lists)
+}
+
 // wantPure holds results of equal arguments against each other, and looks for what has been modified.
-func wantPure(t *testing.T, first arguments, outcomesOf func(arguments) []outcome) {
+func wantPure[A pureArguments[A]](t *testing.T, first A, outcomesOf func(A) []outcome) {
 	t.Helper()
-	second, points, numbers := first.roomy()
-	oldPoints, oldNumbers := make([][]complex64, len(points)), make([][]float32, len(numbers))
-	for i := range points {
-		oldPoints[i], oldNumbers[i] = slices.Clone(points[i]), slices.Clone(numbers[i])
-	}
+	second, memory := first.roomy()
+	old := memory.copy()
 	want := outcomesOf(first.copy())
 	got := outcomesOf(second)
 	wantTrue(t, sameOutcomes(got, want), "equal arguments", first)
 	for _, o := range got {
-		wantOwnMemory(t, o)
+		o.wantOwnMemory(t)
 	}
-	wantTrue(t, slices.EqualFunc(points, oldPoints, samePoints), "points not modified", first)
-	wantTrue(t, slices.EqualFunc(numbers, oldNumbers, sameNumbers), "numbers not modified", first)
+	wantTrue(t, memory.same(old), "lists not modified", first)
 	wantTrue(t, sameOutcomes(outcomesOf(second), want), "once more", first)
 }
 

@@ -99,14 +99,11 @@ func TestLongsSharedIsPure(t *testing.T) {
 	wantTrue(t, second[0] >= 0, "lists of their own")
 }
 
-// Promise 1: no worker goes on after a call.
-func TestWorkersEnd(t *testing.T) {
-	list := newSource().curves(impl.MaxMeets)
+// wantNoWorkers is for functions with workers, none of which may go on after a call.
+func wantNoWorkers(t *testing.T, call func()) {
+	t.Helper()
 	before := runtime.NumGoroutine()
-	for i := range 100 {
-		list[7] = plain(make([]complex64, i%3)...)
-		impl.LongsShared(list, 64, int64(i%10))
-	}
+	call()
 	// A worker tells that it has finished just before it ends, so the last ones may need a moment.
 	for range 1000000 {
 		if runtime.NumGoroutine() <= before {
@@ -115,4 +112,15 @@ func TestWorkersEnd(t *testing.T) {
 		runtime.Gosched()
 	}
 	wantTrue(t, runtime.NumGoroutine() <= before, "goroutines", before, runtime.NumGoroutine())
+}
+
+// Promise 1: no worker goes on after a call.
+func TestWorkersEnd(t *testing.T) {
+	list := newSource().curves(impl.MaxMeets)
+	wantNoWorkers(t, func() {
+		for i := range 100 {
+			list[7] = plain(make([]complex64, i%3)...)
+			impl.LongsShared(list, 64, int64(i%10))
+		}
+	})
 }
