@@ -189,15 +189,93 @@ func TestClipBox(t *testing.T) {
 		got, ok := impl.ClipBox(c.loop, c.a, c.b)
 		wantPoints(t, got, ok, c.want, "ClipBox", c.loop, c.a, c.b)
 	}
-	// The last clip may leave more points than a loop has, but another one of those before fails then.
-	var teeth []complex64
-	for _, z := range sawtooth(64) {
-		teeth = append(teeth, complex(imag(z)-0.5, real(z)))
+}
+
+// turned is a point a quarter of a turn further, again and again, without zeros that have a sign.
+func turned(z complex64, times int) complex64 {
+	for range times {
+		z = complex(0-imag(z), real(z))
 	}
-	got, ok := impl.ClipBox(teeth, -1i, 9+99i)
-	wantTrue(t, ok && len(got) == 96, "ClipBox of teeth on the left", len(got))
-	got, ok = impl.ClipBox(sawtooth(64), -1+0.5i, 99+9i)
-	wantNoList(t, got, ok, "ClipBox of teeth below")
+	return z
+}
+
+// crown is a loop of 64 points, by turns inside and outside a box from -17 - 17 i to 17 + 17 i, 16 of them at each side, and what is inside.
+func crown() (loop, inside []complex64) {
+	for side := range 4 {
+		for k := range 16 {
+			below := complex(float32(2*k-15), float32(-15-4*(k%2)))
+			loop = append(loop, turned(below, side))
+		}
+	}
+	for i, z := range loop {
+		before := loop[(i+63)%64]
+		inside = append(inside, complex((real(before)+real(z))/2, (imag(before)+imag(z))/2))
+		if i%2 == 0 {
+			inside = append(inside, z)
+		}
+	}
+	return loop, inside
+}
+
+// Promise 8: each of the lines of a box may leave more points than a loop has for the next one.
+func TestClipBoxOfManyPoints(t *testing.T) {
+	// The first line adds a point in the middle of each piece, and leaves every other tooth.
+	below, inside := sawtooth(64), []complex64{31.5}
+	for i := range below {
+		below[i] = complex(real(below[i]), 2*imag(below[i])-1)
+		if i > 0 {
+			inside = append(inside, complex(float32(i)-0.5, 0))
+		}
+		if imag(below[i]) > 0 {
+			inside = append(inside, below[i])
+		}
+	}
+	wantEqual(t, len(inside), 96, "points that are inside")
+	// Turned by quarters, the teeth are at the first line, at the second one, and so on.
+	for times := range 4 {
+		loop, want := slices.Clone(below), slices.Clone(inside)
+		for i := range loop {
+			loop[i] = turned(loop[i], times)
+		}
+		for i := range want {
+			want[i] = turned(want[i], times)
+		}
+		a, b := turned(-1, times), turned(99+9i, times)
+		low, high := complex(min(real(a), real(b)), min(imag(a), imag(b))), complex(max(real(a), real(b)), max(imag(a), imag(b)))
+		got, ok := impl.ClipBox(loop, low, high)
+		wantPoints(t, got, ok, want, "ClipBox of teeth, turned", times)
+	}
+	// Each line leaves 8 points more than there were, also the last one.
+	loop, want := crown()
+	got, ok := impl.ClipBox(loop, -17-17i, 17+17i)
+	wantPoints(t, got, ok, want, "ClipBox of a crown")
+	got, ok = impl.ClipBox(backwards(loop), -17-17i, 17+17i)
+	wantTrue(t, ok && len(got) == 96, "ClipBox of a crown, backwards", len(got))
+	// Of the many points that a line leaves, the next one leaves none.
+	got, ok = impl.ClipBox(below, -9, -1+9i)
+	wantPoints(t, got, ok, nil, "ClipBox on the left of teeth")
+	got, ok = impl.ClipBox(below, 99, 100+9i)
+	wantPoints(t, got, ok, nil, "ClipBox on the right of teeth")
+}
+
+// Promise 8: the arguments of both clips are loops all the same, and a side that is not finite fails behind many points, too.
+func TestManyPointsAreNoLoop(t *testing.T) {
+	loop, many := crown()
+	for _, points := range [][]complex64{many, append(loop, 0)} {
+		got, ok := impl.ClipBox(points, -17-17i, 17+17i)
+		wantNoList(t, got, ok, "ClipBox of too many points", len(points))
+		got, ok = impl.ClipLeft(points, 0, 1)
+		wantNoList(t, got, ok, "ClipLeft of too many points", len(points))
+	}
+	// The first line is short, and the second one too long for the teeth.
+	teeth := sawtooth(64)
+	for i := range teeth {
+		teeth[i] *= 4
+	}
+	got, ok := impl.ClipBox(teeth, -1+2i, complex(999, 0x1p122))
+	wantNoList(t, got, ok, "ClipBox of teeth in a box that is too high")
+	got, ok = impl.ClipBox(teeth, -1+2i, complex(999, 0x1p116))
+	wantTrue(t, ok && len(got) == 96, "ClipBox of teeth in a high box", len(got))
 }
 
 // Promise 8: low and high that are no box, or too far away.

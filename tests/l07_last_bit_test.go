@@ -83,7 +83,7 @@ func printsOfHulls() []printed {
 			ends := s.placesOnGrid(2)
 			return pointWords(impl.ClipLeft(loop, ends[0], ends[1]))
 		}},
-		{"ClipBox", 2056205901, func(s *source) []uint32 {
+		{"ClipBox", 1853669663, func(s *source) []uint32 {
 			loop := s.loop()
 			ends := s.placesOnGrid(2)
 			if real(ends[0]) > real(ends[1]) {
